@@ -88,51 +88,64 @@ func isXor(f api.Formula) bool { return f.Kind == api.FXor }
 
 func isConst(f api.Formula) bool { return f.Kind == api.FConst }
 
-// function is a Boolean function of MaxInputs inputs: its table, 64 values in each word.
+// function is what a Boolean function of MaxInputs inputs is at some points: 64 values in each word.
 type function []uint64
 
-// words is the length of a whole function.
-const words = 1 << (api.MaxInputs - 6)
-
-// pointsIn returns the values of an input at the points of a function: bit i of the number of a point is the value of
-// the input i.
-func pointsIn(input int) function {
-	list := make(function, words)
-	for p := range 1 << api.MaxInputs {
-		list[p/64] |= uint64(p>>input&1) << (p % 64)
-	}
-	return list
-}
-
-// inputFunctions are the values of all inputs at all points.
+// inputFunctions are the values of all inputs at all points: bit i of the number of a point is the value of the input i.
 var inputFunctions = func() (list [api.MaxInputs]function) {
 	for i := range list {
-		list[i] = pointsIn(i)
+		list[i] = make(function, 1<<api.MaxInputs/64)
+		for p := range 1 << api.MaxInputs {
+			list[i][p/64] |= uint64(p>>i&1) << (p % 64)
+		}
 	}
 	return list
 }()
 
-// functionOf is the function of a formula by the definition of its kinds, or, if the length is less than words, its
-// values at some of the points.
-func functionOf(f api.Formula, length int) function {
+// pointsFor returns the numbers of the words in which formulas are to be compared: all in which inputs of the formulas
+// differ, or, if these are too many for a great formula, some of them.
+func pointsFor(list ...api.Formula) []int {
+	inputs, nodes := 0, 0
+	for _, f := range list {
+		nodes += numbersOf(f).nodes
+		for i, is := range usedInputs(f) {
+			if is {
+				inputs = max(inputs, i+1)
+			}
+		}
+	}
+	all := 1 << max(0, inputs-6)
+	count := all
+	if nodes > 100 {
+		count = min(all, 64)
+	}
+	points := make([]int, count)
+	for i := range points {
+		points[i] = i * 389 % all // 389 is odd, so that all of the words occur if the count is all
+	}
+	return points
+}
+
+// functionOf is the function of a formula, by the definition of its kinds, in the words with these numbers.
+func functionOf(f api.Formula, points []int) function {
 	if len(f.Kids) == 0 {
-		result := make(function, length)
-		for i := range result {
+		result := make(function, len(points))
+		for i, at := range points {
 			result[i] = -uint64(f.N)
 			if f.Kind == api.FVar {
-				result[i] = inputFunctions[f.N][i*389%words] // 389 is odd, so that all of the points occur
+				result[i] = inputFunctions[f.N][at]
 			}
 		}
 		return result
 	}
-	result := functionOf(f.Kids[0], length)
+	result := functionOf(f.Kids[0], points)
 	if f.Kind == api.FNot {
 		for i := range result {
 			result[i] = ^result[i]
 		}
 		return result
 	}
-	for i, word := range functionOf(f.Kids[1], length) {
+	for i, word := range functionOf(f.Kids[1], points) {
 		switch f.Kind {
 		case api.FAnd:
 			result[i] &= word
@@ -145,12 +158,10 @@ func functionOf(f api.Formula, length int) function {
 	return result
 }
 
-// lengthFor is how many words of the functions of formulas with that many nodes are compared.
-func lengthFor(nodes int) int {
-	if nodes > 60 {
-		return words / 16
-	}
-	return words
+// haveSameFunction reports whether f and g are equal at all points, or, if they are great, at very many.
+func haveSameFunction(f, g api.Formula) bool {
+	points := pointsFor(f, g)
+	return slices.Equal(functionOf(f, points), functionOf(g, points))
 }
 
 // wantSame fails unless g has the function of f, and no other inputs.
@@ -165,8 +176,7 @@ func wantSame(t *testing.T, what string, f, g api.Formula) {
 			t.Fatalf("%s of %s = %s has the input %d", what, brief(f), brief(g), i)
 		}
 	}
-	length := lengthFor(max(numbersOf(f).nodes, numbersOf(g).nodes))
-	if !slices.Equal(functionOf(f, length), functionOf(g, length)) {
+	if !haveSameFunction(f, g) {
 		t.Fatalf("%s of %s = %s has another function", what, brief(f), brief(g))
 	}
 }
