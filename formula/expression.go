@@ -8,9 +8,6 @@ import (
 	"commodatum/poly"
 )
 
-// maxPairs is how many pairs of terms layer 4 multiplies in any case.
-const maxPairs = 1000000
-
 // ValidExpr reports whether e is an expression over f within the limits.
 func ValidExpr(f api.Field, e api.Expr) bool {
 	_, ok := measureExpr(f, e)
@@ -124,25 +121,7 @@ func polyOf(f api.Field, e api.Expr, n int) (api.Poly, api.Errno) {
 	if e.Kind == api.EAdd {
 		return poly.Add(f, n, p, q)
 	}
-	return product(f, n, p, q)
-}
-
-// product returns the product of p and q. Layer 4 need not multiply more than maxPairs pairs of terms at once, even if
-// the limits permit the result; so one half of p after the other is multiplied then.
-func product(f api.Field, n int, p, q api.Poly) (api.Poly, api.Errno) {
-	if len(p)*len(q) <= maxPairs {
-		return poly.Mul(f, n, p, q)
-	}
-	half := len(p) / 2
-	first, err := product(f, n, p[:half], q)
-	if err != api.OK {
-		return nil, err
-	}
-	second, err := product(f, n, p[half:], q)
-	if err != api.OK {
-		return nil, err
-	}
-	return poly.Add(f, n, first, second)
+	return poly.Mul(f, n, p, q)
 }
 
 // add returns the sum of two elements of f.

@@ -250,3 +250,62 @@ func TestPolyOfPairs(t *testing.T) {
 	wantPolyError(t, "2048 times 625 terms", three, times(first, second), 15, api.ErrSize)
 	wantPolyError(t, "625 times 2048 terms", three, times(second, first), 15, api.ErrSize)
 }
+
+// binomials returns the product of the sums of 1 and c times the power e of each of the inputs from first on.
+func binomials(first, count, c, e int) api.Expr {
+	factors := make([]api.Expr, count)
+	for i := range factors {
+		factors[i] = sum(number(1), times(number(c), balanced(times, repeated(in(first+i), e))))
+	}
+	return balanced(times, factors)
+}
+
+// wantSamePoly fails unless both expressions have the same polynomial.
+func wantSamePoly(t *testing.T, what string, f api.Field, a, b api.Expr, n, terms int) {
+	t.Helper()
+	p, q := polyOf(t, f, a, n), polyOf(t, f, b, n)
+	if !equalPolys(p, q) || len(p) != terms {
+		t.Errorf("%v: the polynomial of %s has %d terms; want %d", f, what, len(p), len(q))
+	}
+}
+
+// Most of more than 1000000 pairs of terms cancel out, over GF(2): in a square, and where both factors differ.
+func TestPolyOfCancelsInPairs(t *testing.T) {
+	// p has 1024 terms, and is the sum of u(x) and x9 u(x^3).
+	p := sum(binomials(0, 9, 1, 1), times(in(9), binomials(0, 9, 1, 3)))
+	squares := sum(binomials(0, 9, 1, 2), times(times(in(9), in(9)), binomials(0, 9, 1, 6)))
+	wantSamePoly(t, "p^2", two, times(p, p), squares, 10, 1024)
+	wantSamePoly(t, "p^2", two, times(p, p), squares, api.MaxVars, 1024)
+	wantSamePoly(t, "p (p + x10)", two, times(p, sum(p, in(10))), sum(squares, times(in(10), p)), 11, 2048)
+	wantSamePoly(t, "(p + x10) p + x11", two, sum(times(sum(in(10), p), p), in(11)), sum(sum(squares, in(11)), times(p, in(10))), 12, 2049)
+	wantSamePoly(t, "p^2 + p^2", two, sum(times(p, p), times(p, p)), number(0), 10, 0)
+	wantSamePoly(t, "p (3 p + x10)", four, times(p, sum(times(number(3), p), in(10))), sum(times(number(3), squares), times(in(10), p)), 11, 2048)
+}
+
+// The same over other fields: products of 1 + x and 1 - x.
+func TestPolyOfCancelsInDifferences(t *testing.T) {
+	for _, f := range []api.Field{three, prime} {
+		p, q, product := binomials(0, 10, 1, 1), binomials(0, 10, f.P-1, 1), binomials(0, 10, f.P-1, 2)
+		wantSamePoly(t, "(1 + x) (1 - x)", f, times(p, q), product, 10, 1024)
+		p = times(p, sum(in(10), in(11)))
+		wantSamePoly(t, "(x10 + x11) (1 + x) (1 - x) + x12", f, sum(times(p, q), in(12)), sum(in(12), times(sum(in(10), in(11)), product)), 13, 2049)
+	}
+	p := binomials(0, 9, 1, 1)
+	wantSamePoly(t, "(p p) p", three, times(times(p, p), p), binomials(0, 9, 1, 3), 9, 512)
+}
+
+// Most pairs cancel out, but what is left may be too much: 256 terms times 78 or 80 powers of x8.
+func TestPolyOfCancelsTooLittle(t *testing.T) {
+	for _, f := range []api.Field{two, three, prime} {
+		p, q, product := binomials(0, 8, 1, 1), binomials(0, 8, f.P-1, 1), binomials(0, 8, f.P-1, 2)
+		both := func(count int) (api.Expr, api.Expr) {
+			return times(p, powers(8, count)), times(q, sum(number(1), balanced(times, repeated(in(8), count))))
+		}
+		first, second := both(39)
+		wantSamePoly(t, "19968 terms", f, times(first, second), times(product, powers(8, 78)), 9, 19968)
+		first, second = both(40)
+		wantPolyError(t, "20480 terms", f, times(first, second), 9, api.ErrSize)
+		wantPolyError(t, "20480 terms in a sum", f, sum(in(7), times(second, first)), 9, api.ErrSize)
+		wantPolyError(t, "20480 terms times 0", f, times(number(0), times(second, first)), 9, api.ErrSize)
+	}
+}

@@ -99,34 +99,27 @@ func TestMulTermsLimit(t *testing.T) {
 	wantSize(t, "1000 times 1000 different terms", p, e)
 }
 
-// More than 1000000 pairs of terms may be too many, but not 1000000.
+// The number of pairs of terms does not matter, only the terms of the product.
 func TestMulPairs(t *testing.T) {
-	for _, size := range [][2]int{{1000, 1000}, {1000, 1001}, {1001, 1000}, {999, 1001}, {20000, 50}, {50, 20000}, {20000, 51}, {500, 2000}} {
-		// The factors are sums of all powers of x below a and b. Over GF(2), 1 + x times the first one is
-		// 1 + x^a, so that 1 + x times the product is the sum of b powers and of b others.
-		a, b := size[0], size[1]
-		p, e := poly.Mul(two, 1, row(1, 0, 1, a, 0, 1), row(1, 0, 1, b, 0, 1))
-		if e == api.ErrSize && len(p) == 0 && (a*b > 1000000 || rowProductTerms(a, b) > api.MaxTerms) {
-			continue
-		}
-		if e != api.OK || !poly.Valid(two, 1, p) || len(p) != rowProductTerms(a, b) {
-			t.Errorf("%d times %d terms: %d, %v", a, b, len(p), e)
-		}
-		if left, e := poly.Mul(two, 1, p, row(1, 0, 1, 2, 0, 1)); e == api.OK {
-			both, _ := poly.Add(two, 1, row(1, 0, 1, b, 0, 1), row(1, 0, 1, b, a, 1))
-			wantPoly(t, "1 + x times the product", left, e, both)
+	for _, f := range []api.Field{two, three, prime} {
+		for _, size := range [][2]int{{1000, 1000}, {1000, 1001}, {1001, 1000}, {2000, 2500}, {20000, 50}, {50, 20000}, {500, 19501}, {19502, 500}} {
+			// The factors are sums of all powers of x below a and b.
+			a, b := size[0], size[1]
+			var wanted api.Poly
+			for k := range a + b - 1 {
+				pairs := min(k, a-1) - max(0, k-b+1) + 1
+				if c := pairs % f.P; c > 0 {
+					wanted = append(wanted, term(c, k))
+				}
+			}
+			p, e := poly.Mul(f, 1, row(1, 0, 1, a, 0, 1), row(1, 0, 1, b, 0, 1))
+			if len(wanted) > api.MaxTerms {
+				wantSize(t, "sums of powers", p, e)
+			} else {
+				wantPoly(t, "sums of powers", p, e, wanted)
+			}
 		}
 	}
-}
-
-// rowProductTerms counts the coefficients of the product that are odd.
-func rowProductTerms(a, b int) int {
-	count := 0
-	for k := range a + b - 1 {
-		pairs := min(k, a-1) - max(0, k-b+1) + 1
-		count += pairs % 2
-	}
-	return count
 }
 
 // In the course of the multiplication there may be more than MaxTerms terms, if they cancel out.

@@ -7,9 +7,6 @@ import (
 	"commodatum/field"
 )
 
-// maxProducts is how many pairs of terms are multiplied for one product of polynomials.
-const maxProducts = 1000000
-
 // ring is what the polynomials over a valid field, in a permitted number of variables, have in common. The
 // arguments of its methods are valid: elements of the field, and polynomials over it.
 type ring struct {
@@ -96,18 +93,6 @@ func (r ring) powerOf(a, k int) int {
 // one returns the constant 1.
 func (r ring) one() api.Poly {
 	return api.Poly{{C: 1, E: make([]int, r.n)}}
-}
-
-// mul returns the product of p and q, and whether the limits permit it.
-func (r ring) mul(p, q api.Poly) (api.Poly, bool) {
-	if len(p)*len(q) > maxProducts || !r.powersFit(p, q) {
-		return nil, false
-	}
-	s := r.newSum()
-	for _, t := range p {
-		s.addProduct(t, q)
-	}
-	return s.poly()
 }
 
 // powersFit reports whether the exponents of the product of p and q are at most MaxPower.

@@ -2,6 +2,9 @@ package poly
 
 import "commodatum/api"
 
+// maxFactorPairs is how many pairs of terms one multiplication may have, as there may be very many of them.
+const maxFactorPairs = 1000000
+
 // Substitute returns the polynomial in m variables that results from replacing each variable i of p by l[i].
 func Substitute(f api.Field, n int, p api.Poly, m int, l []api.Poly) (api.Poly, api.Errno) {
 	if _, e := open(f, n, p); e != api.OK {
@@ -77,6 +80,9 @@ func (r ring) mulPower(p, q api.Poly, e int) (api.Poly, bool) {
 	for {
 		ok := true
 		for range e % r.f.P {
+			if len(p)*len(q) > maxFactorPairs {
+				return nil, false
+			}
 			if p, ok = r.mul(p, q); !ok {
 				return nil, false
 			}

@@ -7,51 +7,67 @@ import (
 	"commodatum/api"
 )
 
-// sum adds terms. It maps the key of the exponents to the coefficient, which may be 0.
+// sum adds terms. It maps the bytes of the exponents to what settled makes the coefficient of, which may be 0.
 type sum struct {
 	ring
-	terms map[string]int
-	key   []byte
+	terms map[string]uint64
+	keys  []byte
 }
 
 // newSum returns the sum of no terms.
 func (r ring) newSum() *sum {
-	return &sum{r, map[string]int{}, make([]byte, 2*r.n)}
+	return &sum{ring: r, terms: map[string]uint64{}}
 }
 
-// add adds a term.
-func (s *sum) add(c int, exponents []int) {
-	for v, e := range exponents {
-		// MaxPower fits in two bytes. The first one is the greater one, so that keys are ordered as exponents are.
-		s.key[2*v], s.key[2*v+1] = byte(e>>8), byte(e)
+// add adds a term, whose coefficient is the product of c and d.
+func (s *sum) add(c, d int, key string) {
+	if s.f.M == 1 {
+		// These integers are reduced later, all at once: their sum is far below 2^64.
+		s.terms[key] += uint64(c) * uint64(d)
+		return
 	}
-	if old, ok := s.terms[string(s.key)]; ok {
-		c = s.addElements(old, c)
-	}
-	s.terms[string(s.key)] = c
+	s.terms[key] ^= uint64(s.mulElements(c, d))
+}
+
+// addTerm adds a term.
+func (s *sum) addTerm(c int, exponents []int) {
+	s.keys = appendKey(s.keys[:0], exponents)
+	s.add(c, 1, string(s.keys))
 }
 
 // addMultiple adds the product of the element c and p.
 func (s *sum) addMultiple(c int, p api.Poly) {
 	for _, t := range p {
-		s.add(s.mulElements(c, t.C), t.E)
+		s.addTerm(s.mulElements(c, t.C), t.E)
 	}
 }
 
-// addProduct adds the product of t and p, whose exponents are at most MaxPower.
-func (s *sum) addProduct(t api.Term, p api.Poly) {
-	exponents := make([]int, s.n)
-	for _, u := range p {
-		for v, e := range u.E {
-			exponents[v] = t.E[v] + e
+// addProducts adds the products of t and all terms of q. Their exponents are at most MaxPower.
+func (s *sum) addProducts(t packed, q []packed) {
+	s.keys = s.keys[:0]
+	for _, u := range q {
+		for i, word := range u.words {
+			s.keys = appendWord(s.keys, t.words[i]+word)
 		}
-		s.add(s.mulElements(t.C, u.C), exponents)
 	}
+	// The keys are parts of one string, as many short ones would take much more time.
+	keys, size := string(s.keys), exponentBytes*wordExponents*len(t.words)
+	for i, u := range q {
+		s.add(t.c, u.c, keys[i*size:i*size+exponentBytes*s.n])
+	}
+}
+
+// settled returns the coefficient, which results from adding.
+func (s *sum) settled(c uint64) int {
+	if s.f.M == 1 {
+		return int(c % uint64(s.f.P))
+	}
+	return int(c)
 }
 
 // settle removes the terms with the coefficient 0, and reports whether the limit permits the others.
 func (s *sum) settle() bool {
-	maps.DeleteFunc(s.terms, func(_ string, c int) bool { return c == 0 })
+	maps.DeleteFunc(s.terms, func(_ string, c uint64) bool { return s.settled(c) == 0 })
 	return len(s.terms) <= api.MaxTerms
 }
 
@@ -62,16 +78,7 @@ func (s *sum) poly() (api.Poly, bool) {
 	}
 	p := make(api.Poly, 0, len(s.terms))
 	for _, key := range slices.Sorted(maps.Keys(s.terms)) {
-		p = append(p, api.Term{C: s.terms[key], E: exponentsOf(key)})
+		p = append(p, api.Term{C: s.settled(s.terms[key]), E: exponentsOf(key)})
 	}
 	return p, true
-}
-
-// exponentsOf returns the exponents whose key it is.
-func exponentsOf(key string) []int {
-	exponents := make([]int, len(key)/2)
-	for v := range exponents {
-		exponents[v] = int(key[2*v])<<8 | int(key[2*v+1])
-	}
-	return exponents
 }

@@ -71,7 +71,7 @@ func Multilinear(f api.Field, table []bool) (api.Poly, api.Errno) {
 		for v := range exponents {
 			exponents[v] = i >> v & 1
 		}
-		s.add(c, exponents)
+		s.addTerm(c, exponents)
 	}
 	return sized(s.poly())
 }
